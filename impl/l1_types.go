@@ -77,7 +77,7 @@ func NameValid(s string) bool {
 		return false
 	}
 	for i := 1; i < len(s); i++ {
-		if s[i] < 'a' || s[i] > 'z' {
+		if !isLower(s[i]) {
 			return false
 		}
 	}
@@ -85,6 +85,17 @@ func NameValid(s string) bool {
 }
 
 func isUpper(b byte) bool { return 'A' <= b && b <= 'Z' }
+
+func isLower(b byte) bool { return 'a' <= b && b <= 'z' }
+
+// cutName cuts off the letters in front of a text, of which names are made.
+func cutName(text string) (name, rest string) {
+	end := 0
+	for end < len(text) && (isUpper(text[end]) || isLower(text[end])) {
+		end++
+	}
+	return text[:end], text[end:]
+}
 
 // WorldValid reports whether w is valid.
 func WorldValid(w []Data) bool {
@@ -181,18 +192,23 @@ func FormatWorld(w []Data) string {
 }
 
 func ctorText(w []Data, c Ctor) string {
-	text := c.Name
-	if len(c.Args) > 0 {
-		args := make([]string, len(c.Args))
-		for i, a := range c.Args {
-			args[i] = typeText(w, a)
-		}
-		text += "(" + strings.Join(args, ",") + ")"
+	args := make([]string, len(c.Args))
+	for i, a := range c.Args {
+		args[i] = typeText(w, a)
 	}
+	text := textWithArgs(c.Name, args)
 	if c.Index > 0 {
 		text += ":" + index(c.Index).text()
 	}
 	return text
+}
+
+// textWithArgs returns a name with the texts of arguments behind it, if there are any.
+func textWithArgs(name string, args []string) string {
+	if len(args) == 0 {
+		return name
+	}
+	return name + "(" + strings.Join(args, ",") + ")"
 }
 
 func typeText(w []Data, t Type) string {
@@ -391,13 +407,20 @@ func hasMade(w []Data, t Type, depths map[Type]int) bool {
 	if t.Data == DataInt {
 		return true
 	}
-	isOpen := func(a Type) bool { return depths[a] == 0 }
-	for _, c := range ctorsOf(w, t) {
-		if !slices.ContainsFunc(argTypes(w, t, c), isOpen) {
-			return true
+	isMade := func(c int) bool { return depthAbove(argTypes(w, t, c), depths) > 0 }
+	return slices.ContainsFunc(ctorsOf(w, t), isMade)
+}
+
+// depthAbove returns the least depth of a value with arguments of these types, or 0 if one of them has none.
+func depthAbove(args []Type, depths map[Type]int) int {
+	greatest := 0
+	for _, a := range args {
+		if depths[a] == 0 {
+			return 0
 		}
+		greatest = max(greatest, depths[a])
 	}
-	return false
+	return greatest + 1
 }
 
 // typesOf returns the types of a valid world: that of numbers, and then each data type with each index.

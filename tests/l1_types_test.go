@@ -480,6 +480,21 @@ func isWorldText(text string) bool {
 	return true
 }
 
+// changedText is a text with one of bytes in place of some byte, or in front of it, or without this byte.
+func changedText(r *rand.Rand, text []byte, bytes string) []byte {
+	at := r.IntN(len(text))
+	b := bytes[r.IntN(len(bytes))]
+	switch r.IntN(3) {
+	case 0:
+		text[at] = b
+	case 1:
+		text = slices.Insert(text, at, b)
+	case 2:
+		text = slices.Delete(text, at, at+1)
+	}
+	return text
+}
+
 func TestChangedTexts(t *testing.T) {
 	r := rand.New(rand.NewPCG(3, 3))
 	bytes := "ABILabz0123490*:;|=(),, \x00\xff"
@@ -487,19 +502,7 @@ func TestChangedTexts(t *testing.T) {
 	for range 30000 {
 		text := []byte(impl.FormatWorld(randomWorld(r)))
 		for range 1 + r.IntN(2) {
-			at := r.IntN(len(text))
-			b := bytes[r.IntN(len(bytes))]
-			switch r.IntN(3) {
-			case 0:
-				text[at] = b
-			case 1:
-				text = slices.Insert(text, at, b)
-			case 2:
-				text = slices.Delete(text, at, at+1)
-			}
-			if len(text) == 0 {
-				break
-			}
+			text = changedText(r, text, bytes)
 		}
 		w, ok := impl.ParseWorld(string(text))
 		if ok != isWorldText(string(text)) || ok && impl.FormatWorld(w) != string(text) || !ok && len(w) != 0 {
