@@ -188,11 +188,11 @@ func changed(r *rand.Rand, v impl.Value) impl.Value {
 	return v
 }
 
-// shareMemory reports whether two slices of the values, with what they have behind their ends, have a place in common.
-func shareMemory(values []impl.Value) bool {
-	places := map[*impl.Value]bool{}
-	var walk func(list []impl.Value) bool
-	walk = func(list []impl.Value) bool {
+// sharePlaces reports whether two lists in a tree, with what they have behind their ends, have a place in common.
+func sharePlaces[T any](list []T, kids func(T) []T) bool {
+	places := map[*T]bool{}
+	var walk func(list []T) bool
+	walk = func(list []T) bool {
 		whole := list[:cap(list)]
 		for i := range whole {
 			if places[&whole[i]] {
@@ -200,9 +200,13 @@ func shareMemory(values []impl.Value) bool {
 			}
 			places[&whole[i]] = true
 		}
-		return slices.ContainsFunc(list, func(v impl.Value) bool { return walk(v.Kids) })
+		return slices.ContainsFunc(list, func(node T) bool { return walk(kids(node)) })
 	}
-	return walk(values)
+	return walk(list)
+}
+
+func shareMemory(values []impl.Value) bool {
+	return sharePlaces(values, func(v impl.Value) []impl.Value { return v.Kids })
 }
 
 // checkNoValues checks the results of all functions for a type that is not valid.
