@@ -232,16 +232,22 @@ func checkNoValues(t *testing.T, name string, w []impl.Data, ty impl.Type) {
 	}
 }
 
-func TestValuesOfInvalidTypes(t *testing.T) {
+// eachInvalidType calls check with types that are not valid, as their worlds are not, or as these do not have them.
+func eachInvalidType(t *testing.T, check func(name string, w []impl.Data, ty impl.Type)) {
+	t.Helper()
 	for name, w := range invalidWorlds() {
-		checkNoValues(t, name, w, impl.Type{})
-		checkNoValues(t, name, w, intType)
+		check(name, w, impl.Type{})
+		check(name, w, intType)
 	}
 	w := mustWorld(t, listWorld)
 	for _, ty := range []impl.Type{{Data: -1, Index: 1}, {Data: -2}, {Data: 1}, {Index: -1}, {Index: 4}, {Data: math.MinInt}, {Data: math.MaxInt}, {Index: math.MinInt}, {Index: math.MaxInt}} {
-		checkNoValues(t, "lists", w, ty)
+		check("lists", w, ty)
 	}
-	checkNoValues(t, "no data types", nil, impl.Type{})
+	check("no data types", nil, impl.Type{})
+}
+
+func TestValuesOfInvalidTypes(t *testing.T) {
+	eachInvalidType(t, func(name string, w []impl.Data, ty impl.Type) { checkNoValues(t, name, w, ty) })
 }
 
 func TestParseValue(t *testing.T) {

@@ -345,15 +345,7 @@ func checkNoPattern(t *testing.T, name string, w []impl.Data, ty impl.Type, p im
 }
 
 func TestPatternsOfInvalidTypes(t *testing.T) {
-	for name, w := range invalidWorlds() {
-		checkNoPatterns(t, name, w, impl.Type{})
-		checkNoPatterns(t, name, w, intType)
-	}
-	w := mustWorld(t, listWorld)
-	for _, ty := range []impl.Type{{Data: -1, Index: 1}, {Data: -2}, {Data: 1}, {Index: -1}, {Index: 4}, {Data: math.MinInt}, {Data: math.MaxInt}, {Index: math.MinInt}, {Index: math.MaxInt}} {
-		checkNoPatterns(t, "lists", w, ty)
-	}
-	checkNoPatterns(t, "no data types", nil, impl.Type{})
+	eachInvalidType(t, func(name string, w []impl.Data, ty impl.Type) { checkNoPatterns(t, name, w, ty) })
 }
 
 func TestParsePattern(t *testing.T) {
