@@ -296,6 +296,15 @@ func instance(r *rand.Rand, w []impl.Data, t impl.Type, p impl.Pattern) (impl.Va
 	return randomValue(r, w, t, 2)
 }
 
+// listText writes down patterns for a type, separated by spaces.
+func listText(w []impl.Data, ty impl.Type, list []impl.Pattern) string {
+	var texts []string
+	for _, p := range list {
+		texts = append(texts, impl.FormatPattern(w, ty, p))
+	}
+	return strings.Join(texts, " ")
+}
+
 func sharePatterns(list []impl.Pattern) bool {
 	return sharePlaces(list, func(p impl.Pattern) []impl.Pattern { return p.Kids })
 }
@@ -619,29 +628,28 @@ func TestSplitOr(t *testing.T) {
 		w := mustWorld(t, c.world)
 		p, isPattern := impl.ParsePattern(w, impl.Type{}, c.text)
 		list, ok := impl.SplitOr(w, impl.Type{}, p)
-		var texts []string
-		for _, one := range list {
-			texts = append(texts, impl.FormatPattern(w, impl.Type{}, one))
-		}
-		if got := strings.Join(texts, " "); ok != isPattern || ok != (c.want != "none") || ok && got != c.want || sharePatterns(append(list, p)) {
+		if got := listText(w, impl.Type{}, list); ok != isPattern || ok != (c.want != "none") || ok && got != c.want || sharePatterns(append(list, p)) {
 			t.Errorf("SplitOr(%s) = %s, %v, not %s", c.text, got, ok, c.want)
 		}
 	}
 }
 
+// spread is the text of a pattern with these alternatives.
+func spread(texts []string) string {
+	if len(texts) == 1 {
+		return texts[0]
+	}
+	half := len(texts) / 2
+	return "(" + spread(texts[:half]) + "|" + spread(texts[half:]) + ")"
+}
+
+// cube is the text of a pattern with so many numbers for each of the three Kids.
+func cube(a, b, c int) string {
+	digits := strings.Split("0123456789", "")
+	return "Tri(" + spread(digits[:a]) + "," + spread(digits[:b]) + "," + spread(digits[:c]) + ")"
+}
+
 func TestSplitOrAtTheLimit(t *testing.T) {
-	var spread func(texts []string) string
-	spread = func(texts []string) string {
-		if len(texts) == 1 {
-			return texts[0]
-		}
-		half := len(texts) / 2
-		return "(" + spread(texts[:half]) + "|" + spread(texts[half:]) + ")"
-	}
-	cube := func(a, b, c int) string {
-		digits := strings.Split("0123456789", "")
-		return "Tri(" + spread(digits[:a]) + "," + spread(digits[:b]) + "," + spread(digits[:c]) + ")"
-	}
 	w := mustWorld(t, cubeWorld)
 	for text, want := range map[string]int{
 		cube(8, 10, 5): 400, cube(10, 10, 4): 400, cube(5, 8, 10): 400, "a@" + cube(8, 10, 5): 400, "(" + cube(8, 10, 5) + "|End)": 401, "(End|" + cube(8, 10, 5) + ")": 401, "(" + cube(7, 7, 8) + "|(_|End))": 394, "(" + cube(5, 8, 5) + "|" + cube(2, 4, 2) + ")": 216,
@@ -736,14 +744,16 @@ func TestHugePatterns(t *testing.T) {
 	}
 }
 
+// loop is a PatOr of itself and another pattern.
+func loop(end impl.Pattern) impl.Pattern {
+	kids := make([]impl.Pattern, 2)
+	kids[1] = end
+	kids[0] = orPat(kids...)
+	kids[0].Kids = kids
+	return kids[0]
+}
+
 func TestPatternsInsideOfThemselves(t *testing.T) {
-	loop := func(end impl.Pattern) impl.Pattern {
-		kids := make([]impl.Pattern, 2)
-		kids[1] = end
-		kids[0] = orPat(kids...)
-		kids[0].Kids = kids
-		return kids[0]
-	}
 	a, b := loop(anyPat()), loop(anyPat())
 	if !impl.PatternSame(a, b) || !impl.PatternSame(a, a) || impl.PatternSame(a, loop(varPat(0))) || impl.PatternSame(a, a.Kids[1]) {
 		t.Error("patterns inside of themselves are compared in a wrong way")
