@@ -17,6 +17,9 @@ const (
 	picks = 3
 )
 
+// runners choose clauses by their tree, or by its nodes.
+var runners = map[string]func(w []impl.Data, ty impl.Type, list []impl.Clause, pick int, v impl.Value) (int, []impl.Bind, int){"RunTree": impl.RunTree, "RunNodes": impl.RunNodes}
+
 func leaf(clause int, binds ...impl.PathBind) impl.Tree {
 	return impl.Tree{Op: impl.TreeLeaf, Clause: clause, Binds: binds}
 }
@@ -27,6 +30,12 @@ func fork(kids ...impl.Tree) impl.Tree {
 	for i, kid := range kids {
 		x.Branches = append(x.Branches, impl.Branch{Ctor: i, Tree: kid})
 	}
+	return x
+}
+
+// withElse is a tree with more trees as Else.
+func withElse(x impl.Tree, rest ...impl.Tree) impl.Tree {
+	x.Else = append(slices.Clone(x.Else), rest...)
 	return x
 }
 
@@ -301,8 +310,10 @@ func checkNoTree(t *testing.T, name string, w []impl.Data, ty impl.Type, list []
 // checkNoRun checks that no tree runs for a value.
 func checkNoRun(t *testing.T, name string, w []impl.Data, ty impl.Type, list []impl.Clause, pick int, v impl.Value) {
 	t.Helper()
-	if i, binds, tests := impl.RunTree(w, ty, list, pick, v); i != -1 || len(binds) != 0 || tests != -1 {
-		t.Errorf("%s: RunTree(%v, %d clauses, %d) = %d, %v, %d", name, ty, len(list), pick, i, binds, tests)
+	for runner, run := range runners {
+		if i, binds, tests := run(w, ty, list, pick, v); i != -1 || len(binds) != 0 || tests != -1 {
+			t.Errorf("%s: %s(%v, %d clauses, %d) = %d, %v, %d", name, runner, ty, len(list), pick, i, binds, tests)
+		}
 	}
 }
 
@@ -571,13 +582,15 @@ func TestRunTree(t *testing.T) {
 		list := mustClauses(t, w, c.t, c.clauses)
 		v := mustValue(t, w, c.t, c.value)
 		for pick, tests := range c.tests {
-			i, binds, n := impl.RunTree(w, c.t, list, pick, v)
-			text := ""
-			if i >= 0 {
-				text = bindText(w, c.t, list[i].Pat, binds)
-			}
-			if i != c.clause || text != c.binds || n != tests || i < 0 && len(binds) > 0 {
-				t.Errorf("RunTree(%q, %s, %d, %s) = %d, %s, %d, not %d, %s, %d", c.world, c.clauses, pick, c.value, i, text, n, c.clause, c.binds, tests)
+			for runner, run := range runners {
+				i, binds, n := run(w, c.t, list, pick, v)
+				text := ""
+				if i >= 0 {
+					text = bindText(w, c.t, list[i].Pat, binds)
+				}
+				if i != c.clause || text != c.binds || n != tests || i < 0 && len(binds) > 0 {
+					t.Errorf("%s(%q, %s, %d, %s) = %d, %s, %d, not %d, %s, %d", runner, c.world, c.clauses, pick, c.value, i, text, n, c.clause, c.binds, tests)
+				}
 			}
 		}
 	}
@@ -639,11 +652,7 @@ func TestTreesAtTheLimitOfNodes(t *testing.T) {
 }
 
 func TestCountsOfTrees(t *testing.T) {
-	with := func(x impl.Tree, rest ...impl.Tree) impl.Tree {
-		x.Else = append(slices.Clone(x.Else), rest...)
-		return x
-	}
-	strange := fork(leaf(4), with(leaf(2), fork(leaf(4))))
+	strange := fork(leaf(4), withElse(leaf(2), fork(leaf(4))))
 	strange.Op = 7
 	low := leaf(1)
 	low.Op = impl.TreeFail
@@ -654,9 +663,9 @@ func TestCountsOfTrees(t *testing.T) {
 	}{
 		{impl.Tree{}, 1, 0, nil}, {leaf(3), 1, 0, []int{3}}, {leaf(0), 1, 0, []int{0}}, {leaf(7), 1, 0, []int{7}}, {leaf(8), 1, 0, nil}, {leaf(-1), 1, 0, nil}, {leaf(math.MaxInt), 1, 0, nil}, {leaf(math.MinInt), 1, 0, nil}, {low, 1, 0, nil},
 		{fork(leaf(1), leaf(0), leaf(1)), 4, 1, []int{0, 1}}, {fork(fork(leaf(5), impl.Tree{}), leaf(2)), 5, 2, []int{2, 5}}, {fork(leaf(6), fork(leaf(9), fork(leaf(3))), fork(leaf(6))), 8, 3, []int{3, 6}}, {fork(fork(), fork(fork())), 4, 3, nil},
-		{with(leaf(2), leaf(1)), 2, 0, []int{1, 2}}, {with(leaf(2), fork(leaf(2), with(leaf(1), fork(leaf(0))))), 6, 2, []int{0, 1, 2}}, {fork(with(leaf(0), with(leaf(1), impl.Tree{}))), 4, 1, []int{0, 1}},
+		{withElse(leaf(2), leaf(1)), 2, 0, []int{1, 2}}, {withElse(leaf(2), fork(leaf(2), withElse(leaf(1), fork(leaf(0))))), 6, 2, []int{0, 1, 2}}, {fork(withElse(leaf(0), withElse(leaf(1), impl.Tree{}))), 4, 1, []int{0, 1}},
 		// Trees that are not decision trees.
-		{with(leaf(2), leaf(1), fork(fork(leaf(0)))), 5, 2, []int{0, 1, 2}}, {with(impl.Tree{}, leaf(1)), 2, 0, []int{1}}, {strange, 5, 1, []int{2, 4}}, {with(fork(leaf(1)), fork(fork(leaf(0)))), 5, 3, []int{0, 1}}, {impl.Tree{Op: math.MinInt, Clause: 3}, 1, 0, nil}, {impl.Tree{Op: 3, Clause: 3, Else: []impl.Tree{leaf(3)}}, 2, 0, []int{3}}, {fork(slices.Repeat([]impl.Tree{leaf(5)}, 5000)...), 5001, 1, []int{5}}, {with(impl.Tree{}, slices.Repeat([]impl.Tree{fork()}, 500)...), 501, 1, nil},
+		{withElse(leaf(2), leaf(1), fork(fork(leaf(0)))), 5, 2, []int{0, 1, 2}}, {withElse(impl.Tree{}, leaf(1)), 2, 0, []int{1}}, {strange, 5, 1, []int{2, 4}}, {withElse(fork(leaf(1)), fork(fork(leaf(0)))), 5, 3, []int{0, 1}}, {impl.Tree{Op: math.MinInt, Clause: 3}, 1, 0, nil}, {impl.Tree{Op: 3, Clause: 3, Else: []impl.Tree{leaf(3)}}, 2, 0, []int{3}}, {fork(slices.Repeat([]impl.Tree{leaf(5)}, 5000)...), 5001, 1, []int{5}}, {withElse(impl.Tree{}, slices.Repeat([]impl.Tree{fork()}, 500)...), 501, 1, nil},
 	} {
 		nodes, tests := treeSizes(c.x)
 		if impl.TreeSize(c.x) != c.size || impl.TreeTests(c.x) != c.tests || !slices.Equal(impl.TreeLeaves(c.x), c.leaves) || nodes != c.size || tests != c.tests {
