@@ -317,39 +317,38 @@ func checkNoRun(t *testing.T, name string, w []impl.Data, ty impl.Type, list []i
 	}
 }
 
-// checkNoTrees checks that there are no trees for a clause that is not valid, alone and beside others.
-func checkNoTrees(t *testing.T, name string, w []impl.Data, ty impl.Type, c impl.Clause) {
+// eachInvalidClauses checks lists of clauses that are not valid: alone and beside others, and for types that are not valid.
+func eachInvalidClauses(t *testing.T, check func(name string, w []impl.Data, ty impl.Type, list []impl.Clause)) {
 	t.Helper()
 	whole := clauseOf(anyPat())
-	for pick := range picks {
+	beside := func(name string, w []impl.Data, ty impl.Type, c impl.Clause) {
 		for _, list := range [][]impl.Clause{{c}, {whole, c}, {c, whole}} {
-			checkNoTree(t, name, w, ty, list, pick)
+			check(name, w, ty, list)
 		}
 	}
-}
-
-func TestTreesOfInvalidTypes(t *testing.T) {
 	eachInvalidType(t, func(name string, w []impl.Data, ty impl.Type) {
-		checkNoTree(t, name, w, ty, nil, impl.PickFirst)
-		for _, c := range []impl.Clause{clauseOf(anyPat()), guarded(varPat(0), less(0, 3)), clauseOf(intPat(0, 9)), clauseOf(ctorPat(0))} {
-			checkNoTrees(t, name, w, ty, c)
+		check(name, w, ty, nil)
+		for _, c := range []impl.Clause{whole, guarded(varPat(0), less(0, 3)), clauseOf(intPat(0, 9)), clauseOf(ctorPat(0))} {
+			beside(name, w, ty, c)
 		}
 	})
-}
-
-func TestTreesOfInvalidClauses(t *testing.T) {
-	list := mustWorld(t, listWorld)
+	list, expr := mustWorld(t, listWorld), mustWorld(t, exprWorld)
 	head := ctorPat(1, varPat(0), varPat(1))
 	for _, c := range []impl.Clause{
 		{}, clauseOf(impl.Pattern{Op: 7}), clauseOf(ctorPat(2)), clauseOf(ctorPat(1)), clauseOf(intPat(0, 9)), clauseOf(varPat(6)), clauseOf(ctorPat(1, varPat(0), varPat(0))), clauseOf(orPat(varPat(0), anyPat())), clauseOf(impl.Pattern{Op: impl.PatAny, N: 1}), guarded(head, less(1, 3)), guarded(head, less(0, 10)), guarded(head, equal(2, 1)), guarded(head, impl.Guard{Op: 3}), guarded(head, impl.Guard{N: 1}), guarded(anyPat(), less(0, 3)), clauseOf(asPat(0)), clauseOf(loop(varPat(0))), clauseOf(ctorPat(1, make([]impl.Pattern, 100000)...)),
 	} {
-		checkNoTrees(t, "lists", list, impl.Type{}, c)
+		beside("lists", list, impl.Type{}, c)
 	}
-	expr := mustWorld(t, exprWorld)
-	checkNoTrees(t, "an index that leaves a constructor out", expr, impl.Type{Index: 1}, clauseOf(ctorPat(1, anyPat())))
-	for pick := range picks {
-		checkNoTree(t, "nine clauses", list, impl.Type{}, slices.Repeat([]impl.Clause{clauseOf(anyPat())}, 9), pick)
-	}
+	beside("an index that leaves a constructor out", expr, impl.Type{Index: 1}, clauseOf(ctorPat(1, anyPat())))
+	check("nine clauses", list, impl.Type{}, slices.Repeat([]impl.Clause{whole}, 9))
+}
+
+func TestTreesOfInvalidClauses(t *testing.T) {
+	eachInvalidClauses(t, func(name string, w []impl.Data, ty impl.Type, list []impl.Clause) {
+		for pick := range picks {
+			checkNoTree(t, name, w, ty, list, pick)
+		}
+	})
 }
 
 func TestTreesWithUnknownChoices(t *testing.T) {
@@ -362,13 +361,18 @@ func TestTreesWithUnknownChoices(t *testing.T) {
 	}
 }
 
+// notLists are values that are not valid lists, one of which contains a list that is as deep as possible.
+func notLists(deep impl.Value) []impl.Value {
+	return []impl.Value{number(0), made(2), made(-1), made(-2), made(1), made(0, number(0)), made(1, number(10), made(0)), made(1, number(-1), made(0)), made(1, made(0), number(3)), made(1, number(3)), made(1, number(3), made(0), made(0)), {Ctor: 0, N: 1}, {Ctor: 1, N: 1, Kids: []impl.Value{number(3), made(0)}}, made(1, number(0), deep), made(1, number(3), made(1, number(3), made(5)))}
+}
+
 func TestRunTreeOfInvalidValues(t *testing.T) {
 	w := mustWorld(t, listWorld)
 	deep := mustValue(t, w, impl.Type{}, nested(10))
 	for pick := range picks {
 		for _, text := range []string{"", "_", "a", "Nil", "Cons(3,a)/_", "Cons(a,_) a<3/Nil"} {
 			list := mustClauses(t, w, impl.Type{}, text)
-			for _, v := range []impl.Value{number(0), made(2), made(-1), made(-2), made(1), made(0, number(0)), made(1, number(10), made(0)), made(1, number(-1), made(0)), made(1, made(0), number(3)), made(1, number(3)), made(1, number(3), made(0), made(0)), {Ctor: 0, N: 1}, {Ctor: 1, N: 1, Kids: []impl.Value{number(3), made(0)}}, made(1, number(0), deep), made(1, number(3), made(1, number(3), made(5)))} {
+			for _, v := range notLists(deep) {
 				checkNoRun(t, text, w, impl.Type{}, list, pick, v)
 			}
 			if i, _, tests := impl.RunTree(w, impl.Type{}, list, pick, deep); tests < 0 || i < -1 {
@@ -596,10 +600,15 @@ func TestRunTree(t *testing.T) {
 	}
 }
 
+// alternatives are texts of patterns for cubeWorld, and whether they have at most 40 alternatives.
+func alternatives() map[string]bool {
+	return map[string]bool{cube(8, 5, 1): true, "a@" + cube(5, 1, 8): true, "(" + cube(3, 1, 10) + "|" + cube(1, 9, 1) + ")": true, "(" + cube(8, 5, 1) + "|End)": false, cube(7, 6, 1): false, "Tri(_," + spread(slices.Repeat([]string{"1"}, 8)) + "," + spread(slices.Repeat([]string{"_"}, 5)) + ")": true, "Tri(_," + spread(slices.Repeat([]string{"1"}, 9)) + "," + spread(slices.Repeat([]string{"_"}, 5)) + ")": false, cube(10, 10, 4): false, cube(10, 10, 5): false}
+}
+
 func TestTreesAtTheLimitOfAlternatives(t *testing.T) {
 	w := mustWorld(t, cubeWorld)
 	whole := clauseOf(anyPat())
-	for text, ok := range map[string]bool{cube(8, 5, 1): true, "a@" + cube(5, 1, 8): true, "(" + cube(3, 1, 10) + "|" + cube(1, 9, 1) + ")": true, "(" + cube(8, 5, 1) + "|End)": false, cube(7, 6, 1): false, "Tri(_," + spread(slices.Repeat([]string{"1"}, 8)) + "," + spread(slices.Repeat([]string{"_"}, 5)) + ")": true, "Tri(_," + spread(slices.Repeat([]string{"1"}, 9)) + "," + spread(slices.Repeat([]string{"_"}, 5)) + ")": false, cube(10, 10, 4): false, cube(10, 10, 5): false} {
+	for text, ok := range alternatives() {
 		c := clauseOf(mustPattern(t, w, impl.Type{}, text))
 		for pick := range picks {
 			// Also a clause that is never reached has too many.
@@ -737,9 +746,9 @@ func checkRuns(t *testing.T, w []impl.Data, ty impl.Type, list []impl.Clause, pi
 		if i != want || !equalBinds(mapOf(binds), stand) || known != want || !equalBinds(mapOf(others), stand) || !slices.IsSortedFunc(binds, func(a, b impl.Bind) int { return a.Var - b.Var }) {
 			t.Fatalf("%s: RunTree = %d, %v, and RunClauses = %d, %v, not %d, %v", name, i, binds, known, others, want, stand)
 		}
-		count, fails := walked(list, x, v)
-		if tests != count || tests > impl.TreeTests(x) || i >= 0 && !slices.Contains(impl.TreeLeaves(x), i) {
-			t.Fatalf("%s: RunTree counts %d tests, not %d", name, tests, count)
+		paths, fails := walked(list, x, v)
+		if tests != len(paths) || tests > impl.TreeTests(x) || i >= 0 && !slices.Contains(impl.TreeLeaves(x), i) {
+			t.Fatalf("%s: RunTree counts %d tests, not %v", name, tests, paths)
 		}
 		memory := []impl.Value{v}
 		for _, b := range binds {
@@ -756,35 +765,40 @@ func checkRuns(t *testing.T, w []impl.Data, ty impl.Type, list []impl.Clause, pi
 	return chosen, failed
 }
 
-// walked is the number of TreeSwitch on the way of a value through a tree, and that of the guards that fail.
-func walked(list []impl.Clause, x impl.Tree, v impl.Value) (tests, fails int) {
-	part := func(path []int) impl.Value {
-		at := v
-		for _, i := range path {
-			at = at.Kids[i]
-		}
-		return at
-	}
+// walked are the paths of the TreeSwitch on the way of a value through a tree, and the number of the guards that fail.
+func walked(list []impl.Clause, x impl.Tree, v impl.Value) (paths [][]int, fails int) {
 	if x.Op == impl.TreeSwitch {
-		at := part(x.Path)
+		at := partOf(v, x.Path)
 		for _, b := range x.Branches {
 			if b.Ctor == at.Ctor && b.N <= at.N && at.N <= b.M {
-				tests, fails = walked(list, b.Tree, v)
-				return tests + 1, fails
+				paths, fails = walked(list, b.Tree, v)
+				return append([][]int{x.Path}, paths...), fails
 			}
 		}
 	}
 	if x.Op == impl.TreeLeaf && len(x.Else) > 0 {
 		g := list[x.Clause].Guard
 		for _, b := range x.Binds {
-			n := part(b.Path).N
-			if b.Var == g.Var && (g.Op == impl.GuardLess && n >= g.N || g.Op == impl.GuardEqual && n != g.N) {
-				tests, fails = walked(list, x.Else[0], v)
-				return tests, fails + 1
+			if b.Var == g.Var && !holds(g, partOf(v, b.Path).N) {
+				paths, fails = walked(list, x.Else[0], v)
+				return paths, fails + 1
 			}
 		}
 	}
-	return tests, fails
+	return nil, 0
+}
+
+// partOf is the part of a value at a path.
+func partOf(v impl.Value, path []int) impl.Value {
+	for _, i := range path {
+		v = v.Kids[i]
+	}
+	return v
+}
+
+// holds reports whether a number is less than that of a guard, or equal to it.
+func holds(g impl.Guard, n int) bool {
+	return g.Op == impl.GuardLess && n < g.N || g.Op == impl.GuardEqual && n == g.N
 }
 
 func TestRandomTrees(t *testing.T) {
@@ -827,19 +841,25 @@ func TestRandomTrees(t *testing.T) {
 	}
 }
 
+// randomGuarded are clauses with variables, and most of them with guards.
+func randomGuarded(r *rand.Rand, w []impl.Data, ty impl.Type) []impl.Clause {
+	var list []impl.Clause
+	for range 2 + r.IntN(6) {
+		// Many clauses that match the same values, and in which a variable stands for a number.
+		p := randomPattern(r, w, ty, 1+r.IntN(4), []int{0, 1, 2, 3, 4, 5}[r.IntN(3):])
+		if g := randomGuard(r, w, ty, p); g.Op != 0 || r.IntN(3) == 0 {
+			list = append(list, guarded(p, g))
+		}
+	}
+	return list
+}
+
 func TestRandomTreesWithGuards(t *testing.T) {
 	r := rand.New(rand.NewPCG(29, 29))
 	chosen, failed := 0, 0
 	for range 1500 {
 		w, ty := randomUsed(r)
-		var list []impl.Clause
-		for range 2 + r.IntN(6) {
-			// Many clauses that match the same values, and in which a variable stands for a number.
-			p := randomPattern(r, w, ty, 1+r.IntN(4), []int{0, 1, 2, 3, 4, 5}[r.IntN(3):])
-			if g := randomGuard(r, w, ty, p); g.Op != 0 || r.IntN(3) == 0 {
-				list = append(list, guarded(p, g))
-			}
-		}
+		list := randomGuarded(r, w, ty)
 		if !impl.ClausesValid(w, ty, list) {
 			continue
 		}
