@@ -126,14 +126,14 @@ func codeOf(list []impl.Clause) ([]impl.Step, bool) {
 	return append(code, impl.Step{Op: 3}), true
 }
 
-// testsFor are the paths of the tests that code executes for a value, and the number of the guards that fail.
-func testsFor(list []impl.Clause, v impl.Value) (paths [][]int, fails int) {
+// testsFor are the paths of the tests that code executes for a value, those of all parts that it uses, and the number of the guards that fail.
+func testsFor(list []impl.Clause, v impl.Value) (tested, used [][]int, fails int) {
 	for _, c := range list {
 		for _, choice := range choicesOf(c.Pat) {
 			passed := true
 			for _, path := range choice.paths() {
 				p, part := choice.tests[path], partOf(v, placeOf(path))
-				paths = append(paths, placeOf(path))
+				tested, used = append(tested, placeOf(path)), append(used, placeOf(path))
 				isNumber := p.Op == impl.PatInt && p.N <= part.N && part.N <= p.M
 				if !isNumber && (p.Op == impl.PatInt || p.Ctor != part.Ctor) {
 					passed = false
@@ -143,14 +143,19 @@ func testsFor(list []impl.Clause, v impl.Value) (paths [][]int, fails int) {
 			if !passed {
 				continue
 			}
-			if c.Guard.Op == 0 || holds(c.Guard, partOf(v, placeOf(choice.vars[c.Guard.Var])).N) {
-				return paths, fails
+			if c.Guard.Op == 0 {
+				return tested, used, fails
+			}
+			path := placeOf(choice.vars[c.Guard.Var])
+			used = append(used, path)
+			if holds(c.Guard, partOf(v, path).N) {
+				return tested, used, fails
 			}
 			fails++
 			break
 		}
 	}
-	return paths, fails
+	return tested, used, fails
 }
 
 // stepLines are the lines of code.
@@ -245,7 +250,7 @@ func checkSteps(t *testing.T, w []impl.Data, ty impl.Type, list []impl.Clause, v
 		if i != want || !equalBinds(mapOf(binds), stand) || known != want || !equalBinds(mapOf(others), stand) || !slices.IsSortedFunc(binds, func(a, b impl.Bind) int { return a.Var - b.Var }) {
 			t.Fatalf("%s: RunSteps = %d, %v, and RunClauses = %d, %v, not %d, %v", name, i, binds, known, others, want, stand)
 		}
-		executed, fails := testsFor(list, v)
+		executed, _, fails := testsFor(list, v)
 		paths := impl.TestedPaths(w, ty, list, v)
 		if tests != len(executed) || pathTexts(paths) != pathTexts(eachOnce(executed)) {
 			t.Fatalf("%s: RunSteps counts %d tests, and TestedPaths = %v, not %v", name, tests, paths, executed)
@@ -487,18 +492,24 @@ func TestFormatManySteps(t *testing.T) {
 	}
 }
 
+// randomMixed are clauses of which many cover what others do, or many have guards, and which are not always valid.
+func randomMixed(r *rand.Rand, w []impl.Data, ty impl.Type, guards bool) []impl.Clause {
+	list := randomCover(r, w, ty)
+	if guards {
+		list = randomGuarded(r, w, ty)
+	}
+	if r.IntN(20) == 0 {
+		list = changedClauses(r, list)
+	}
+	return list
+}
+
 func TestRandomCode(t *testing.T) {
 	r := rand.New(rand.NewPCG(33, 33))
 	invalid, unknown, chosen, failed, left, repeated := 0, 0, 0, 0, 0, 0
 	for i := range 2400 {
 		w, ty := randomUsed(r)
-		list := randomCover(r, w, ty)
-		if i%2 == 0 {
-			list = randomGuarded(r, w, ty)
-		}
-		if r.IntN(20) == 0 {
-			list = changedClauses(r, list)
-		}
+		list := randomMixed(r, w, ty, i%2 == 0)
 		if !impl.ClausesValid(w, ty, list) {
 			invalid++
 			checkNoCode(t, "not valid", w, ty, list)
