@@ -489,7 +489,7 @@ func TestForcedPaths(t *testing.T) {
 		{optWorld, first, "Pair(_,Non)/Pair(Non,Non)/_", "Pair(Som(1),Som(1))", "v v.1 v.0", [picks]string{"v v.1"}}, {optWorld, first, "Pair(_,Non)/Pair(Som(_),Non)/_", "Pair(Non,Som(1))", "v v.1 v.0", [picks]string{"v v.1"}}, {cubeWorld, first, "Tri(_,_,3)/Tri(1,_,2-3)/Tri(2,_,3)/_", "Tri(2,5,7)", "v v.2 v.0", [picks]string{"v v.2"}}, {cubeWorld, first, "Tri(_,_,3)/Tri(_,1,3)/Tri(2,_,7)/_", "Tri(2,5,7)", "v v.2 v.1 v.0", [picks]string{"v v.2 v.0"}},
 		{optWorld, first, "Pair(Non,Non)/Pair(Non,_)/Pair(Som(_),_)/Pair(_,Non)", "Pair(Som(1),Som(1))", "v v.0", [picks]string{}}, {cubeWorld, first, "Tri(1,2,_)/Tri(1,_,3)/_", "Tri(1,5,4)", "v v.0 v.1 v.2", [picks]string{}}, {pairWorld, first, "Two(Qa(1,_),_)/Two(Qb,_)/Two(_,Qb)/Two(Qa(_,3),_)/_", "Two(Qb,Qb)", "v v.0", [picks]string{}}, {listWorld, first, "Cons(3,Nil)/Cons(4-9,Cons(_,_))/Cons(3,_)/_", "Cons(4,Nil)", "v v.0 v.1", [picks]string{"", "", "v v.1 v.0"}},
 		// Another choice can use a part that code does not use.
-		{optWorld, first, "Pair(Non,Non)/_/Pair(_,Som(_))/Pair(_,Som(_))", "Pair(Som(1),Non)", "v v.0", [picks]string{"", "v v.1 v.0", ""}},
+		{optWorld, first, "Pair(Non,Non)/_/Pair(_,Som(_))/Pair(_,Som(_))", "Pair(Som(1),Non)", "v v.0", [picks]string{"", "v v.1 v.0", ""}}, {listWorld, first, "Cons(3,Nil)/_", "Cons(4,Nil)", "v v.0", [picks]string{"", "", "v v.1 v.0"}},
 		{exprWorld, impl.Type{Index: 1}, "If(_,Num(a),_) a=3/If(b,_,c)", "If(Bol(Tru),Num(4),Num(5))", "v v.1 v.1.0", [picks]string{}}, {neverWorld, first, "May(_)/_", "Fls", "v", [picks]string{}},
 	} {
 		w, _ := impl.ParseWorld(c.world)
